@@ -357,15 +357,15 @@ func take(step string, kind int, s string) (k int, more []string, e api.Errno) {
 
 func takeMany(s string, parts ...string) (k int, more []string, e api.Errno) {
 	for count := 1; k < len(s); count++ {
+		if count > 4 {
+			return 0, nil, api.ErrLimit
+		}
 		for _, part := range parts {
 			n, _, e := take(part, 0, s[k:])
 			if e != api.OK {
 				return 0, nil, e
 			}
 			k += n
-		}
-		if count > 4 {
-			return 0, nil, api.ErrLimit
 		}
 	}
 	return k, nil, unless(k > 0, api.ErrProto)

@@ -506,13 +506,16 @@ func TestTakeErrors(t *testing.T) {
 		{"a bad filter, then a QoS of 3", "\x82\x0a\x00\x01\x00\x00\x01\xff\x00\x00\x00\x03", api.ErrBad},
 		{"four filters", whole(0x82, "\x00\x01\x00"+filters), api.OK},
 		{"five filters", whole(0x82, "\x00\x01\x00"+filters+"\x00\x01a\x00"), api.ErrLimit},
-		{"five filters, the last one cut off", whole(0x82, "\x00\x01\x00"+filters+"\x00\x01a"), api.ErrBad},
-		{"five filters, the last one with a QoS of 3", whole(0x82, "\x00\x01\x00"+filters+"\x00\x01a\x03"), api.ErrProto},
+		{"five filters, the last one cut off", whole(0x82, "\x00\x01\x00"+filters+"\x00\x01a"), api.ErrLimit},
+		{"five filters, the last one with a QoS of 3", whole(0x82, "\x00\x01\x00"+filters+"\x00\x01a\x03"), api.ErrLimit},
 		{"five filters, then a bad one", whole(0x82, "\x00\x01\x00"+filters+"\x00\x01a\x00\x00"), api.ErrLimit},
+		{"five filters, the fourth one with a QoS of 3", whole(0x82, "\x00\x01\x00"+filters[:12]+"\x00\x01a\x03"+"\x00\x01a\x00"), api.ErrProto},
+		{"five filters, the fourth one bad", whole(0x82, "\x00\x01\x00"+filters[:12]+"\x00\x01\xff\x00"+"\x00\x01a\x00"), api.ErrBad},
 		{"no topic to leave", "\xa2\x03\x00\x01\x00", api.ErrProto},
 		{"four topics to leave", whole(0xa2, "\x00\x01\x00"+topics), api.OK},
 		{"five topics to leave", whole(0xa2, "\x00\x01\x00"+topics+"\x00\x00"), api.ErrLimit},
-		{"five topics to leave, the last one cut off", whole(0xa2, "\x00\x01\x00"+topics+"\x00"), api.ErrBad},
+		{"five topics to leave, the last one cut off", whole(0xa2, "\x00\x01\x00"+topics+"\x00"), api.ErrLimit},
+		{"five topics to leave, the fourth one bad", whole(0xa2, "\x00\x01\x00"+topics[:9]+"\x00\x01\xff"+"\x00\x01a"), api.ErrBad},
 		{"a topic to leave that is too long", whole(0xa2, "\x00\x01\x00"+tooLong), api.ErrLimit},
 		{"an Unsubscribe's property of a Subscribe", whole(0xa2, "\x00\x01\x02\x0b\x01\x00\x01a"), api.ErrProto},
 		{"no code", "\x90\x03\x00\x01\x00", api.ErrProto},
@@ -533,6 +536,44 @@ func TestTakeErrors(t *testing.T) {
 			t.Errorf("%s: %.300v, %d, %v, want %v", c.about, p, k, e, c.want)
 		}
 		checkTake(t, c.s)
+	}
+}
+
+// P5.2: a filter that is wrong itself: its own error up to the fourth one, and behind that one too many.
+func TestOneTooMany(t *testing.T) {
+	longer := "\x04\x01" + long + "x"
+	for _, c := range []struct {
+		first int
+		good  string
+		wrong string
+		want  api.Errno // of the wrong one, where there is room for it
+	}{
+		{0x82, "\x00\x01a\x00", "\xff", api.ErrBad},
+		{0x82, "\x00\x01a\x00", "\x00\x01", api.ErrBad},
+		{0x82, "\x00\x01a\x00", "\x00\x01a", api.ErrBad},
+		{0x82, "\x00\x01a\x00", "\x00\x01\xff\x00", api.ErrBad},
+		{0x82, "\x00\x01a\x00", "\x00\x01a\x03", api.ErrProto},
+		{0x82, "\x00\x01a\x00", "\x00\x01a\x30", api.ErrProto},
+		{0x82, "\x00\x01a\x00", "\x00\x01a\x40", api.ErrProto},
+		{0x82, "\x00\x01a\x00", longer + "\x00", api.ErrLimit},
+		{0x82, "\x00\x01a\x00", "\x00\x01a\x00", api.OK},
+		{0xa2, "\x00\x01a", "\xff", api.ErrBad},
+		{0xa2, "\x00\x01a", "\x00\x02a", api.ErrBad},
+		{0xa2, "\x00\x01a", "\x00\x01\xff", api.ErrBad},
+		{0xa2, "\x00\x01a", longer, api.ErrLimit},
+		{0xa2, "\x00\x01a", "\x00\x01a", api.OK},
+	} {
+		for ahead := range 8 {
+			want := c.want
+			if ahead >= 4 {
+				want = api.ErrLimit
+			}
+			s := whole(c.first, "\x00\x01\x00"+strings.Repeat(c.good, ahead)+c.wrong)
+			if _, _, e := Take(s); e != want {
+				t.Errorf("%.100q behind %d filters: %v, want %v", c.wrong, ahead, e, want)
+			}
+			checkTake(t, s)
+		}
 	}
 }
 

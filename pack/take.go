@@ -40,11 +40,11 @@ func next[T any](r *reader, take func(s string) (T, int, api.Errno)) T {
 func many[T any](r *reader, one func() T) []T {
 	var l []T
 	for r.rest != "" {
-		v := one()
-		if len(l) == api.MaxFilters {
+		if len(l) == api.MaxFilters { // asked ahead of it: what is wrong within one too many stands further back
 			r.fail(api.ErrLimit)
+			break
 		}
-		l = append(l, v)
+		l = append(l, one())
 	}
 	if len(l) == 0 {
 		r.fail(api.ErrProto)
